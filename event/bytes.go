@@ -122,10 +122,11 @@ func putNums(b []byte, l ...*int) []byte {
 	return b
 }
 
-// getNums gets these numbers, up to the greatest that any of an event's may be:
-// which of them may be less only, Good asks.
+// getNums gets these numbers, whatever they are: that no event has one is no error
+// of code's, but Good's to say, once all are there. One that is no int stands as the
+// greatest int, which is as little Good.
 func getNums(s *code.Source, l ...*int) {
 	for _, n := range l {
-		*n = int(s.Num(greatest))
+		*n = int(min(s.Num(math.MaxUint64), math.MaxInt))
 	}
 }

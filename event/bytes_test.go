@@ -220,8 +220,7 @@ func TestParseOfNotGood(t *testing.T) {
 }
 
 // P14.2: a number that is written as it must be is no error of code's, though no
-// Good event has it: what lacks behind it tells. One above 2^40 is none that an
-// event could have.
+// Good event has it: what lacks behind it tells.
 func TestParseOfNotGoodAndCut(t *testing.T) {
 	tooShort(t, Blocked, 0)
 	tooShort(t, Blocked, 0, 128)
@@ -231,10 +230,60 @@ func TestParseOfNotGoodAndCut(t *testing.T) {
 	tooShort(t, Preempted, 0, 0, 8)
 	tooShort(t, Preempted, 1, 1, 9, 65, 9)
 	tooShort(t, Preempted, 1, 1, 8, 70, 10, 0, 0, 0, 0, 0, 0, 0)
+}
+
+// P14.2: the same of numbers above 2^40, in each place that has others behind it,
+// up to the last that lacks. Whole, no such event is Good.
+func TestParseOfGreatAndCut(t *testing.T) {
+	for _, n := range [][]byte{
+		{129, 128, 128, 128, 128, 32},                    // 2^40 + 1
+		{128, 128, 128, 129, 128, 32},                    // 2^40 + 2^21
+		{255, 255, 255, 255, 255, 255, 255, 255, 127},    // 2^63 - 1
+		{128, 128, 128, 128, 128, 128, 128, 128, 128, 1}, // 2^63
+		{129, 128, 128, 128, 128, 128, 128, 128, 128, 1}, // 2^63 + 1
+		append(bytes.Repeat([]byte{255}, 9), 1),          // 2^64 - 1
+	} {
+		for _, c := range []struct {
+			ahead []byte
+			lack  int
+		}{
+			{[]byte{Grant}, 0},
+			{[]byte{Blocked}, 1},
+			{[]byte{Unblocked}, 2},
+			{[]byte{Unblocked, 1}, 1},
+			{[]byte{Demand}, 1},
+			{[]byte{Preempted}, 12},
+			{[]byte{Preempted, 1}, 11},
+			{[]byte{Preempted, 1, 1}, 10},
+			{[]byte{Preempted, 1, 1, 0}, 9},
+			{[]byte{Preempted, 1, 1, 0, 0}, 8},
+			{slices.Concat([]byte{Preempted}, n, n, n, n), 8},
+		} {
+			b := slices.Concat(c.ahead, n)
+			for range c.lack {
+				tooShort(t, b...)
+				tooShort(t, slices.Concat(b, []byte{128})...)
+				refused(t, slices.Concat(b, []byte{128, 0})...)
+				b = append(b, 1)
+			}
+			refused(t, b...)
+		}
+	}
 	tooShort(t, Blocked, 128, 128, 128, 128, 128, 32)
-	refused(t, Blocked, 129, 128, 128, 128, 128, 32)
-	refused(t, Demand, 129, 128, 128, 128, 128, 32)
-	refused(t, Preempted, 1, 1, 129, 128, 128, 128, 128, 32)
+}
+
+// P14.2: as many bytes as numbers can have, which an event that is not Good alone
+// has.
+func TestParseOfGreatNumbersAlone(t *testing.T) {
+	b := []byte{Preempted}
+	for range 13 {
+		tooShort(t, b...)
+		b = slices.Concat(b, bytes.Repeat([]byte{255}, 9))
+		tooShort(t, b...)
+		b = append(b, 1)
+	}
+	refused(t, b...)
+	refused(t, slices.Concat(b, b)...)
 }
 
 // all holds All against what is wanted, and, of what there is, Read of that.

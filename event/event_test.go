@@ -226,9 +226,29 @@ func TestText(t *testing.T) {
 			t.Errorf("Text(%v): %q, want %q", c.e, got, c.want)
 		}
 	}
+}
+
+// P14.2: a kind that is none has no name, but its numbers are told all the same.
+func TestTextOfNoKind(t *testing.T) {
 	for _, kind := range odd() {
-		if got := Text(api.Event{Kind: kind, Act: 1, Thread: 2, Value: 3}); got != "" {
-			t.Errorf("Text of kind %d: %q", kind, got)
+		for _, c := range []struct {
+			e    api.Event
+			want string
+		}{
+			{api.Event{}, ""},
+			{api.Event{Context: full()[1].Context}, ""},
+			{api.Event{Act: 3}, " 3"},
+			{api.Event{Thread: 1}, " 1"},
+			{api.Event{Value: 1}, " 1"},
+			{api.Event{Thread: 2, Value: 9}, " 2 9"},
+			{api.Event{Act: 1, Thread: 2, Value: 3}, " 1 2 3"},
+			{api.Event{Act: 3, Thread: -4, Value: 5}, " 3 -4 5"},
+			{api.Event{Act: lowest, Value: highest}, " -9223372036854775808 9223372036854775807"},
+		} {
+			c.e.Kind = kind
+			if got := Text(c.e); got != c.want {
+				t.Errorf("Text(%v): %q, want %q", c.e, got, c.want)
+			}
 		}
 	}
 }

@@ -115,6 +115,7 @@ func plainParse(b []byte) (api.Event, int, api.Errno) {
 	}
 	rest := b[1:]
 	var l []int
+	great := false
 	for i := range counts[kind][0] + counts[kind][1] {
 		n, behind, err := plainNext(rest)
 		if err != api.OK {
@@ -122,15 +123,16 @@ func plainParse(b []byte) (api.Event, int, api.Errno) {
 		}
 		rest = behind
 		if i < counts[kind][0] {
-			if n.Cmp(big.NewInt(1<<40)) > 0 {
-				return api.Event{}, 0, api.ErrBad
-			}
+			great = great || n.Cmp(big.NewInt(1<<40)) > 0
 		} else if n.Bit(0) == 1 {
 			n.Neg(n.Add(n, big.NewInt(1))).Quo(n, big.NewInt(2))
 		} else {
 			n.Quo(n, big.NewInt(2))
 		}
 		l = append(l, int(n.Int64()))
+	}
+	if great {
+		return api.Event{}, 0, api.ErrBad
 	}
 	e := api.Event{Kind: kind, Act: l[0]}
 	switch kind {
@@ -168,8 +170,6 @@ func plainText(e api.Event) string {
 		s = "idle"
 	case 7:
 		s = "recycle"
-	default:
-		return ""
 	}
 	for _, n := range []int{e.Act, e.Thread, e.Value} {
 		if n != 0 {
@@ -261,6 +261,13 @@ func drawnRow(r *rand.Rand, count int, draw func(r *rand.Rand) api.Event) []api.
 	return l
 }
 
+// drawnNum is a number's bytes, any that code puts, those near 2^40 and near the ends
+// more often.
+func drawnNum(r *rand.Rand) []byte {
+	n := new(big.Int).SetUint64(uint64(drawnInt(r)))
+	return plainNum(n.Rsh(n, uint(r.Intn(3)*12)))
+}
+
 // drawnBytes are bytes that are nearly an event's, or any.
 func drawnBytes(r *rand.Rand) []byte {
 	var b []byte
@@ -274,7 +281,7 @@ func drawnBytes(r *rand.Rand) []byte {
 	b = Bytes(drawnGood(r))
 	for range r.Intn(3) {
 		at := r.Intn(len(b))
-		switch r.Intn(5) {
+		switch r.Intn(6) {
 		case 0:
 			b = b[:max(at, 1)]
 		case 1:
@@ -285,6 +292,8 @@ func drawnBytes(r *rand.Rand) []byte {
 			b = slices.Insert(b, at, byte(r.Intn(256)))
 		case 4:
 			b = append(b, byte(r.Intn(256)))
+		case 5:
+			b = slices.Insert(b, max(at, 1), drawnNum(r)...)
 		}
 	}
 	return b
